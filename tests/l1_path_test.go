@@ -189,14 +189,17 @@ func TestUnderByParts(t *testing.T) {
 	texts := slices.Concat(somePaths, noPaths, textsOf("ab/", 4))
 	for _, a := range texts {
 		for _, b := range texts {
-			first, second := splitPath(a), splitPath(b)
-			want := pathForm.MatchString(a) && pathForm.MatchString(b) &&
-				len(first) <= len(second) && slices.Equal(first, second[:len(first)])
-			if impl.PthUnder(a, b) != want {
+			if want := underByHand(a, b); impl.PthUnder(a, b) != want {
 				t.Fatalf("PthUnder of %q and %q: %v", a, b, !want)
 			}
 		}
 	}
+}
+
+// underByHand holds the names of both paths against each other.
+func underByHand(a, b string) bool {
+	first, second := splitPath(a), splitPath(b)
+	return pathForm.MatchString(a) && pathForm.MatchString(b) && len(first) <= len(second) && slices.Equal(first, second[:len(first)])
 }
 
 func splitPath(s string) []string {
