@@ -43,7 +43,8 @@ func treeByHand(files []impl.TreFile) bool {
 			return false
 		}
 		for k, g := range files {
-			if k < i && g.Path >= f.Path || k != i && strings.HasPrefix(f.Path, g.Path+"/") {
+			rest, begins := strings.CutPrefix(f.Path, g.Path)
+			if k < i && g.Path >= f.Path || begins && strings.HasPrefix(rest, "/") {
 				return false
 			}
 		}
