@@ -23,10 +23,11 @@ const (
 // poolOfTexts is texts by their ids, each once, put together without the pool's own functions.
 func poolOfTexts(texts ...string) []impl.PolItem {
 	var list []impl.PolItem
+	seen := map[string]bool{}
 	for _, s := range texts {
-		item := impl.PolItem{Id: idByHand(s), Text: s}
-		if !slices.Contains(list, item) {
-			list = append(list, item)
+		if !seen[s] {
+			seen[s] = true
+			list = append(list, impl.PolItem{Id: idByHand(s), Text: s})
 		}
 	}
 	slices.SortFunc(list, func(a, b impl.PolItem) int { return a.Id - b.Id })
